@@ -2,8 +2,10 @@ package tests
 
 import (
 	"math"
+	"reflect"
 	"slices"
 	"strings"
+	"testing"
 
 	"loop.example/lapflow/impl"
 )
@@ -88,6 +90,25 @@ func notOkFlights() map[string][]impl.FlowFlight {
 	}
 }
 
+// notOkCaps are caps that are not ok, each for one reason.
+func notOkCaps() [][]impl.FlowCap {
+	wrong := [][]impl.FlowCap{
+		manyCaps(impl.FlowMaxSectors + 1),
+		{sectorCap("e", -1)},
+		{sectorCap("e", impl.FlowMaxCap+1)},
+		{sectorCap("e", 5), sectorCap("e", 5)},
+		{sectorCap("w", 5), sectorCap("e", 5)},
+		{sectorCap("a", 5), sectorCap("b", -1)},
+	}
+	for _, name := range badNames {
+		wrong = append(wrong, []impl.FlowCap{sectorCap(name, 5)})
+	}
+	for _, far := range farInts {
+		wrong = append(wrong, []impl.FlowCap{sectorCap("e", far)})
+	}
+	return wrong
+}
+
 // draws gives numbers that look drawn by lot and are the same in every run.
 type draws uint64
 
@@ -153,4 +174,59 @@ func copyFlights(list []impl.FlowFlight) []impl.FlowFlight {
 		list[i].Visits = slices.Clone(list[i].Visits)
 	}
 	return list
+}
+
+// drawFitting draws slots and takes away what does not fit, one of ten times leaving them as they are.
+func drawFitting(d *draws, caps []impl.FlowCap, list []impl.FlowFlight) []int {
+	slots := drawSlots(d, list)
+	if d.below(10) == 0 {
+		return slots
+	}
+	fitting := same(len(list), -1)
+	for i, s := range slots {
+		fitting[i] = s
+		if !fitsSlowly(caps, list, fitting) {
+			fitting[i] = -1
+		}
+	}
+	return fitting
+}
+
+// arguments are lists to be handed in, those that go on behind their ends, and what these were at first.
+type arguments struct {
+	caps, allCaps, wantCaps    []impl.FlowCap
+	list, allList, wantList    []impl.FlowFlight
+	slots, allSlots, wantSlots []int
+}
+
+// behindVisits stands behind the end of each list of visits.
+var behindVisits = visit("~", -9, -9)
+
+func drawArguments(d *draws) arguments {
+	list := drawFlights(d)
+	caps := []impl.FlowCap{sectorCap("e", d.below(5)), sectorCap("w", 2)}
+	a := arguments{
+		allCaps:  append(slices.Clone(caps), sectorCap("~", -7)),
+		allList:  append(copyFlights(list), flight("~", 7, 7, visit("~", 7, 7)), flight("~~", 8, 8, visit("~", 8, 8))),
+		allSlots: append(drawFitting(d, caps, list), 77, 78),
+	}
+	for i, f := range a.allList {
+		a.allList[i].Visits = append(f.Visits, behindVisits)[:len(f.Visits)]
+	}
+	a.caps, a.list, a.slots = a.allCaps[:len(caps)], a.allList[:len(list)], a.allSlots[:len(list)]
+	a.wantCaps, a.wantList, a.wantSlots = slices.Clone(a.allCaps), copyFlights(a.allList), slices.Clone(a.allSlots)
+	return a
+}
+
+// stay says whether all is as it was.
+func (a arguments) stay(t *testing.T) {
+	t.Helper()
+	if !slices.Equal(a.allCaps, a.wantCaps) || !reflect.DeepEqual(a.allList, a.wantList) || !slices.Equal(a.allSlots, a.wantSlots) {
+		t.Fatal("an argument is changed")
+	}
+	for _, f := range a.allList {
+		if f.Visits[:len(f.Visits)+1][len(f.Visits)] != behindVisits {
+			t.Fatal("something is written behind the visits' end")
+		}
+	}
 }

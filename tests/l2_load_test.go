@@ -255,17 +255,7 @@ func TestFitsOnlyInTime(t *testing.T) {
 }
 
 func TestFitsNotByWhatIsNotOk(t *testing.T) {
-	wrong := [][]impl.FlowCap{
-		manyCaps(impl.FlowMaxSectors + 1),
-		{sectorCap("e", -1)},
-		{sectorCap("e", impl.FlowMaxCap+1)},
-		{sectorCap("e", 5), sectorCap("e", 5)},
-		{sectorCap("w", 5), sectorCap("e", 5)},
-	}
-	for _, name := range badNames {
-		wrong = append(wrong, []impl.FlowCap{sectorCap(name, 5)})
-	}
-	for i, caps := range wrong {
+	for i, caps := range notOkCaps() {
 		if impl.FlowFits(caps, alike(2), []int{0, 0}) || impl.FlowFits(caps, nil, nil) || impl.FlowFits(caps, alike(2), []int{-1, -1}) {
 			t.Errorf("caps %d are not ok, and it fits", i)
 		}
@@ -316,29 +306,15 @@ func TestFitsDrawn(t *testing.T) {
 func TestArgumentsStay(t *testing.T) {
 	d := draws(2)
 	for range 200 {
-		list := append(drawFlights(&d), flight("~", 7, 7, visit("~", 7, 7)), flight("~~", 8, 8, visit("~", 8, 8)))
-		for i := range list {
-			list[i].Visits = append(list[i].Visits, visit("~", -9, -9))
-			list[i].Visits = list[i].Visits[:len(list[i].Visits)-1]
-		}
-		slots := append(drawSlots(&d, list), 77, 78)
-		caps := []impl.FlowCap{sectorCap("e", d.below(5)), sectorCap("w", 2), sectorCap("~", -7)}
-		wantList, wantSlots, wantCaps := copyFlights(list), slices.Clone(slots), slices.Clone(caps)
-		n := d.below(len(list) - 1)
-		impl.FlowFlightsOk(list[:n])
-		impl.FlowCapsOk(caps[:2])
-		impl.FlowLoad(list[:n], slots[:n], "e", 5)
-		impl.FlowRuns(list[:n], slots[:n], "e")
-		impl.FlowFits(caps[:2], list[:n], slots[:n])
-		impl.FlowFits(caps, list, slots)
-		if !reflect.DeepEqual(list, wantList) || !slices.Equal(slots, wantSlots) || !slices.Equal(caps, wantCaps) {
-			t.Fatal("an argument is changed")
-		}
-		for _, f := range list {
-			if f.Visits[:len(f.Visits)+1][len(f.Visits)] != visit("~", -9, -9) {
-				t.Fatal("something is written behind the visits' end")
-			}
-		}
+		a := drawArguments(&d)
+		impl.FlowFlightsOk(a.list)
+		impl.FlowCapsOk(a.caps)
+		impl.FlowLoad(a.list, a.slots, "e", 5)
+		impl.FlowRuns(a.list, a.slots, "e")
+		impl.FlowFits(a.caps, a.list, a.slots)
+		a.stay(t)
+		impl.FlowFits(a.allCaps, a.allList, a.allSlots)
+		a.stay(t)
 	}
 }
 
