@@ -1,6 +1,11 @@
 // Package impl: who may leave when, so that no sector has more than it can guide.
 package impl
 
+import (
+	"cmp"
+	"slices"
+)
+
 // Limits of flights.
 const (
 	FlowMaxName    = 8
@@ -65,6 +70,13 @@ func namedOk[T named](list []T, most int) bool {
 		}
 	}
 	return true
+}
+
+// placeOf is the place at which the thing of a name stands, or would stand, among such as ascend by name, and whether it is there.
+func placeOf[T named](list []T, name string) (int, bool) {
+	return slices.BinarySearchFunc(list, name, func(x T, name string) int {
+		return cmp.Compare(x.name(), name)
+	})
 }
 
 // nameOk says whether a text is a name. A byte that is no rune is ranged over as U+FFFD, which no name holds.
