@@ -2,6 +2,11 @@ package tests
 
 import (
 	"fmt"
+	"go/ast"
+	"go/parser"
+	"go/token"
+	"go/types"
+	"maps"
 	"regexp"
 	"slices"
 	"strings"
@@ -813,4 +818,88 @@ func TestSessionKeepsNothing(t *testing.T) {
 		t.Errorf("sessions beside each other are answered otherwise than alone: %v", wrong)
 	}
 	wantText(t, "slots\nload e\nbound e\n", "late 0\nnone\n0\n")
+}
+
+// sessionFuncs are the functions and methods of the program's file of sessions, by their names.
+func sessionFuncs(t *testing.T) map[string]*ast.FuncDecl {
+	t.Helper()
+	file, err := parser.ParseFile(token.NewFileSet(), "../impl/l6_session.go", nil, 0)
+	if err != nil {
+		t.Fatal(err)
+	}
+	funcs := map[string]*ast.FuncDecl{}
+	for _, d := range file.Decls {
+		if f, ok := d.(*ast.FuncDecl); ok {
+			funcs[f.Name.Name] = f
+		}
+	}
+	for _, name := range []string{"init", "commandOf", "FlowSession"} {
+		if funcs[name] == nil {
+			t.Fatalf("there is no %s", name)
+		}
+	}
+	return funcs
+}
+
+// filledByInit is what init puts into commands, by their words.
+func filledByInit(f *ast.FuncDecl) map[string]string {
+	filled := map[string]string{}
+	for _, s := range f.Body.List {
+		if a, ok := s.(*ast.AssignStmt); ok && len(a.Lhs) == 1 {
+			if to, ok := a.Lhs[0].(*ast.IndexExpr); ok && types.ExprString(to.X) == "commands" {
+				filled[types.ExprString(to.Index)] = types.ExprString(a.Rhs[0])
+			}
+		}
+	}
+	return filled
+}
+
+// toldByCase is what each case of a function returns, by its word.
+func toldByCase(f *ast.FuncDecl) map[string]string {
+	told := map[string]string{}
+	ast.Inspect(f, func(n ast.Node) bool {
+		if c, ok := n.(*ast.CaseClause); ok && len(c.List) == 1 && len(c.Body) == 1 {
+			if r, ok := c.Body[0].(*ast.ReturnStmt); ok && len(r.Results) == 1 {
+				told[types.ExprString(c.List[0])] = types.ExprString(r.Results[0])
+			}
+		}
+		return true
+	})
+	return told
+}
+
+// usesOfCommands are how often a function names commands, and how often it asks for their number alone.
+func usesOfCommands(f *ast.FuncDecl) (named, counted int) {
+	ast.Inspect(f, func(n ast.Node) bool {
+		switch x := n.(type) {
+		case *ast.Ident:
+			if x.Name == "commands" {
+				named++
+			}
+		case *ast.CallExpr:
+			if types.ExprString(x) == "len(commands)" {
+				counted++
+			}
+		}
+		return true
+	})
+	return named, counted
+}
+
+// TestSessionCommandsStand looks at how the program is written, as no answer shows it: init fills commands with what
+// commandOf tells of each word, FlowSession reads them, and nothing that is played comes out of them.
+func TestSessionCommandsStand(t *testing.T) {
+	funcs := sessionFuncs(t)
+	filled, told := filledByInit(funcs["init"]), toldByCase(funcs["commandOf"])
+	if len(filled) != 8 || !maps.Equal(filled, told) {
+		t.Errorf("init fills commands with %v, and commandOf tells %v", filled, told)
+	}
+	if named, _ := usesOfCommands(funcs["FlowSession"]); named == 0 {
+		t.Error("FlowSession does not read commands")
+	}
+	for name, f := range funcs {
+		if named, counted := usesOfCommands(f); name != "init" && named != counted {
+			t.Errorf("%s takes more of commands than their number", name)
+		}
+	}
 }
